@@ -1,0 +1,63 @@
+package wire
+
+import (
+	"testing"
+
+	"jvmcore/api"
+)
+
+func TestNumbersHaveTheHighestByteFirst(t *testing.T) {
+	r := NewReader("\x01\x02\x03\xff\xfe\xfd\xfc\x80\x00\x00\x00\x00\x00\x00\x07ab")
+	if x := r.Uint8(); x != 1 {
+		t.Errorf("Uint8 = %d", x)
+	}
+	if x := r.Uint16(); x != 0x0203 {
+		t.Errorf("Uint16 = %#x", x)
+	}
+	if x := r.Number(4); x != 0xfffefdfc {
+		t.Errorf("Number(4) = %#x", x)
+	}
+	if x := r.Number(8); x != 0x8000000000000007 {
+		t.Errorf("Number(8) = %#x", x)
+	}
+	if at := r.At(); at != 15 {
+		t.Errorf("At = %d", at)
+	}
+	if s := r.Take(2); s != "ab" || !r.Good() {
+		t.Errorf("Take(2) = %q, %v", s, r.Good())
+	}
+	if e, place := r.Err(); e != api.OK || place != 0 {
+		t.Errorf("Err = %d, %d", e, place)
+	}
+}
+
+func TestTheFirstErrorStays(t *testing.T) {
+	r := NewReader("\x01\x02\x03")
+	r.Uint8()
+	if x := r.Number(4); x != 0 {
+		t.Errorf("Number past the end = %d", x)
+	}
+	if x := r.Uint8(); x != 0 {
+		t.Errorf("Uint8 behind an error = %d", x)
+	}
+	r.Fail(api.ErrTag, 1)
+	if e, place := r.Err(); e != api.ErrEnd || place != 3 || r.Good() {
+		t.Errorf("Err = %d, %d, want %d, 3", e, place, api.ErrEnd)
+	}
+	r = NewReader("\x01")
+	r.Fail(api.ErrTag, 0)
+	if s := r.Take(2); s != "" {
+		t.Errorf("Take behind an error = %q", s)
+	}
+	if e, place := r.Err(); e != api.ErrTag || place != 0 {
+		t.Errorf("Err = %d, %d, want %d, 0", e, place, api.ErrTag)
+	}
+}
+
+func TestAppend(t *testing.T) {
+	b := Append([]byte("x"), 2, 1, 0xfffe)
+	b = Append(b, 8, 0x8000000000000007)
+	if want := "x\x00\x01\xff\xfe\x80\x00\x00\x00\x00\x00\x00\x07"; string(b) != want {
+		t.Errorf("Append = %x, want %x", b, want)
+	}
+}
