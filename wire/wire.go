@@ -60,6 +60,12 @@ func (r *Reader) Number(n int) uint64 {
 	return x
 }
 
+// Signed: the next n bytes, 8 at most, as a number whose highest bit is its sign.
+func (r *Reader) Signed(n int) int64 {
+	above := 64 - 8*n
+	return int64(r.Number(n)<<above) >> above
+}
+
 // Uint8: the next byte.
 func (r *Reader) Uint8() uint8 {
 	return uint8(r.Number(1))

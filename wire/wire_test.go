@@ -31,6 +31,21 @@ func TestNumbersHaveTheHighestByteFirst(t *testing.T) {
 	}
 }
 
+func TestSignedNumbers(t *testing.T) {
+	r := NewReader("\x7f\x80\xff\x7f\xff\x80\x00\x7f\xff\xff\xff\x80\x00\x00\x00\xff\xff\xff\xff\xff\xff\xff\xfe")
+	for _, c := range []struct {
+		size int
+		want int64
+	}{{1, 127}, {1, -128}, {1, -1}, {2, 32767}, {2, -32768}, {4, 1<<31 - 1}, {4, -1 << 31}, {0, 0}, {8, -2}, {0, 0}} {
+		if x := r.Signed(c.size); x != c.want || !r.Good() {
+			t.Errorf("Signed(%d) = %d, want %d", c.size, x, c.want)
+		}
+	}
+	if x := r.Signed(1); x != 0 || r.Good() {
+		t.Errorf("Signed past the end = %d, %v", x, r.Good())
+	}
+}
+
 func TestTheFirstErrorStays(t *testing.T) {
 	r := NewReader("\x01\x02\x03")
 	r.Uint8()

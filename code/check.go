@@ -1,0 +1,153 @@
+package code
+
+import (
+	"slices"
+	"strings"
+
+	"jvmcore/api"
+	"jvmcore/desc"
+)
+
+// The types of locals, in the order in which loads and stores of them have their numbers.
+const (
+	ofInt uint8 = iota
+	ofLong
+	ofFloat
+	ofDouble
+	ofReference
+)
+
+// checker: looks at operands.
+type checker struct {
+	pool    []api.Const
+	locals  int
+	methods map[int]method // those that were called, by their index: a long descriptor is read once
+}
+
+// method: of a pool: its name, the slots of what it takes, and whether it has a descriptor at all.
+type method struct {
+	name  string
+	slots int
+	right bool
+}
+
+// Check: OK and 0; or ErrOperand, and the place of the first instruction whose operand may not be, by the pool p and the number of locals.
+func Check(l []api.Ins, p []api.Const, locals int) (api.Errno, int) {
+	c := checker{pool: p, locals: locals, methods: map[int]method{}}
+	for _, i := range l {
+		if !c.localHolds(i) || !c.indexHolds(i) {
+			return api.ErrOperand, i.At
+		}
+	}
+	return api.OK, 0
+}
+
+// localHolds: is its local there, if it has one?
+func (c *checker) localHolds(i api.Ins) bool {
+	number, of, has := localOf(i)
+	if !has {
+		return true
+	}
+	if number < 0 || number >= c.locals {
+		return false
+	}
+	return of != ofLong && of != ofDouble || number < c.locals-1
+}
+
+// localOf: the local of an instruction and its type; false if it has none.
+func localOf(i api.Ins) (int, uint8, bool) {
+	switch op := i.Op; {
+	case within(op, 21, 25):
+		return i.A, op - 21, true
+	case within(op, 26, 45):
+		return int(op-26) % 4, (op - 26) / 4, true
+	case within(op, 54, 58):
+		return i.A, op - 54, true
+	case within(op, 59, 78):
+		return int(op-59) % 4, (op - 59) / 4, true
+	case op == 132:
+		return i.A, ofInt, true
+	}
+	return 0, 0, false
+}
+
+// indexHolds: does its index lead where it must, if it has one?
+func (c *checker) indexHolds(i api.Ins) bool {
+	switch op := i.Op; {
+	case op == 18, op == 19:
+		return c.has(i.A, api.Integer, api.Float, api.StringRef)
+	case op == 20:
+		return c.has(i.A, api.Long, api.Double)
+	case within(op, 178, 181):
+		return c.has(i.A, api.FieldRef)
+	case within(op, 182, 184):
+		return c.has(i.A, api.MethodRef) && c.called(i)
+	case op == 185:
+		return c.has(i.A, api.InterfaceRef) && c.called(i) && i.B == 1+c.method(i.A).slots
+	case op == 187:
+		return c.has(i.A, api.ClassRef) && c.dimensions(i.A) == 0
+	case op == 189:
+		return c.has(i.A, api.ClassRef) && c.dimensions(i.A) < 255
+	case op == 192, op == 193:
+		return c.has(i.A, api.ClassRef)
+	case op == 197:
+		return c.has(i.A, api.ClassRef) && c.dimensions(i.A) >= i.B
+	}
+	return true
+}
+
+// called: may the instruction call the method that its A leads to?
+func (c *checker) called(i api.Ins) bool {
+	m := c.method(i.A)
+	return m.right && m.name != "<clinit>" && (m.name != "<init>" || i.Op == 183)
+}
+
+// method: that of the MethodRef or InterfaceRef of an index.
+func (c *checker) method(index int) method {
+	if m, found := c.methods[index]; found {
+		return m
+	}
+	m := c.findMethod(index)
+	c.methods[index] = m
+	return m
+}
+
+func (c *checker) findMethod(index int) method {
+	pair := int(c.constant(index).B)
+	if !c.has(pair, api.NameType) {
+		return method{}
+	}
+	takes, _, right := desc.Method(c.text(int(c.constant(pair).B)))
+	m := method{name: c.text(int(c.constant(pair).A)), right: right}
+	for _, t := range takes {
+		m.slots += desc.Slots(t)
+	}
+	return m
+}
+
+// dimensions: of the ClassRef of an index.
+func (c *checker) dimensions(index int) int {
+	name := c.text(int(c.constant(index).A))
+	return len(name) - len(strings.TrimLeft(name, "["))
+}
+
+// has: does the index lead to a constant of one of these tags?
+func (c *checker) has(index int, tags ...uint8) bool {
+	return slices.Contains(tags, c.constant(index).Tag)
+}
+
+// text: that of an index, or the empty one.
+func (c *checker) text(index int) string {
+	if !c.has(index, api.Utf8) {
+		return ""
+	}
+	return c.constant(index).Text
+}
+
+// constant: that of an index; one of Tag 0 where there is none.
+func (c *checker) constant(index int) api.Const {
+	if index < 1 || index >= len(c.pool) {
+		return api.Const{}
+	}
+	return c.pool[index]
+}
