@@ -1,10 +1,10 @@
 package code
 
 import (
-	"slices"
 	"strings"
 
 	"jvmcore/api"
+	"jvmcore/consts"
 	"jvmcore/desc"
 )
 
@@ -19,7 +19,7 @@ const (
 
 // checker: looks at operands.
 type checker struct {
-	pool    []api.Const
+	consts.Pool
 	locals  int
 	methods map[int]method // those that were called, by their index: a long descriptor is read once
 }
@@ -33,7 +33,7 @@ type method struct {
 
 // Check: OK and 0; or ErrOperand, and the place of the first instruction whose operand may not be, by the pool p and the number of locals.
 func Check(l []api.Ins, p []api.Const, locals int) (api.Errno, int) {
-	c := checker{pool: p, locals: locals, methods: map[int]method{}}
+	c := checker{Pool: p, locals: locals, methods: map[int]method{}}
 	for _, i := range l {
 		if !c.localHolds(i) || !c.indexHolds(i) {
 			return api.ErrOperand, i.At
@@ -75,23 +75,23 @@ func localOf(i api.Ins) (int, uint8, bool) {
 func (c *checker) indexHolds(i api.Ins) bool {
 	switch op := i.Op; {
 	case op == 18, op == 19:
-		return c.has(i.A, api.Integer, api.Float, api.StringRef)
+		return c.Has(i.A, api.Integer, api.Float, api.StringRef)
 	case op == 20:
-		return c.has(i.A, api.Long, api.Double)
+		return c.Has(i.A, api.Long, api.Double)
 	case within(op, 178, 181):
-		return c.has(i.A, api.FieldRef)
+		return c.Has(i.A, api.FieldRef)
 	case within(op, 182, 184):
-		return c.has(i.A, api.MethodRef) && c.called(i)
+		return c.Has(i.A, api.MethodRef) && c.called(i)
 	case op == 185:
-		return c.has(i.A, api.InterfaceRef) && c.called(i) && i.B == 1+c.method(i.A).slots
+		return c.Has(i.A, api.InterfaceRef) && c.called(i) && i.B == 1+c.method(i.A).slots
 	case op == 187:
-		return c.has(i.A, api.ClassRef) && c.dimensions(i.A) == 0
+		return c.Has(i.A, api.ClassRef) && c.dimensions(i.A) == 0
 	case op == 189:
-		return c.has(i.A, api.ClassRef) && c.dimensions(i.A) < 255
+		return c.Has(i.A, api.ClassRef) && c.dimensions(i.A) < 255
 	case op == 192, op == 193:
-		return c.has(i.A, api.ClassRef)
+		return c.Has(i.A, api.ClassRef)
 	case op == 197:
-		return c.has(i.A, api.ClassRef) && c.dimensions(i.A) >= i.B
+		return c.Has(i.A, api.ClassRef) && c.dimensions(i.A) >= i.B
 	}
 	return true
 }
@@ -113,12 +113,14 @@ func (c *checker) method(index int) method {
 }
 
 func (c *checker) findMethod(index int) method {
-	pair := int(c.constant(index).B)
-	if !c.has(pair, api.NameType) {
+	pair := int(c.At(index).B)
+	if !c.Has(pair, api.NameType) {
 		return method{}
 	}
-	takes, _, right := desc.Method(c.text(int(c.constant(pair).B)))
-	m := method{name: c.text(int(c.constant(pair).A)), right: right}
+	name, _ := c.Text(int(c.At(pair).A))
+	descriptor, _ := c.Text(int(c.At(pair).B))
+	takes, _, right := desc.Method(descriptor)
+	m := method{name: name, right: right}
 	for _, t := range takes {
 		m.slots += desc.Slots(t)
 	}
@@ -127,27 +129,6 @@ func (c *checker) findMethod(index int) method {
 
 // dimensions: of the ClassRef of an index.
 func (c *checker) dimensions(index int) int {
-	name := c.text(int(c.constant(index).A))
+	name, _ := c.Class(index)
 	return len(name) - len(strings.TrimLeft(name, "["))
-}
-
-// has: does the index lead to a constant of one of these tags?
-func (c *checker) has(index int, tags ...uint8) bool {
-	return slices.Contains(tags, c.constant(index).Tag)
-}
-
-// text: that of an index, or the empty one.
-func (c *checker) text(index int) string {
-	if !c.has(index, api.Utf8) {
-		return ""
-	}
-	return c.constant(index).Text
-}
-
-// constant: that of an index; one of Tag 0 where there is none.
-func (c *checker) constant(index int) api.Const {
-	if index < 1 || index >= len(c.pool) {
-		return api.Const{}
-	}
-	return c.pool[index]
 }

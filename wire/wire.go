@@ -76,6 +76,13 @@ func (r *Reader) Uint16() uint16 {
 	return uint16(r.Number(2))
 }
 
+// Finish: ErrRest, where bytes are left.
+func (r *Reader) Finish() {
+	if r.at < len(r.bytes) {
+		r.Fail(api.ErrRest, r.at)
+	}
+}
+
 // Append: b, and behind it the n lowest bytes of each number.
 func Append(b []byte, n int, numbers ...uint64) []byte {
 	for _, x := range numbers {

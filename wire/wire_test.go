@@ -69,6 +69,26 @@ func TestTheFirstErrorStays(t *testing.T) {
 	}
 }
 
+func TestFinish(t *testing.T) {
+	r := NewReader("ab")
+	r.Take(1)
+	r.Finish()
+	if e, place := r.Err(); e != api.ErrRest || place != 1 {
+		t.Errorf("Finish within the bytes: %d, %d, want %d, 1", e, place, api.ErrRest)
+	}
+	r = NewReader("ab")
+	r.Take(2)
+	r.Finish()
+	if e, place := r.Err(); e != api.OK || place != 0 {
+		t.Errorf("Finish behind the bytes: %d, %d", e, place)
+	}
+	r.Take(1)
+	r.Finish()
+	if e, place := r.Err(); e != api.ErrEnd || place != 2 {
+		t.Errorf("Finish behind an error: %d, %d, want %d, 2", e, place, api.ErrEnd)
+	}
+}
+
 func TestAppend(t *testing.T) {
 	b := Append([]byte("x"), 2, 1, 0xfffe)
 	b = Append(b, 8, 0x8000000000000007)
