@@ -113,14 +113,18 @@ func valueLength(s string) int {
 
 // isClassName: is it the name of a class that is no array?
 func isClassName(s string) bool {
-	part, rest, more := strings.Cut(s, "/")
-	for more && isPart(part) {
-		part, rest, more = strings.Cut(rest, "/")
+	ahead := byte('/')
+	for k := range len(s) {
+		b := s[k]
+		if b == '.' || b == ';' || b == '[' || b == '/' && ahead == '/' {
+			return false
+		}
+		ahead = b
 	}
-	return isPart(part)
+	return ahead != '/'
 }
 
 // isPart: is it a part of a name?
 func isPart(s string) bool {
-	return s != "" && !strings.ContainsAny(s, ".;[/")
+	return isClassName(s) && !strings.Contains(s, "/")
 }

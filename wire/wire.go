@@ -51,6 +51,14 @@ func (r *Reader) Take(n int) string {
 	return s
 }
 
+// Rest: the bytes that are left, which stay unread; none after an error.
+func (r *Reader) Rest() string {
+	if !r.Good() {
+		return ""
+	}
+	return r.bytes[r.at:]
+}
+
 // Number: the next n bytes, 8 at most, as a number.
 func (r *Reader) Number(n int) uint64 {
 	var x uint64

@@ -69,6 +69,26 @@ func TestTheFirstErrorStays(t *testing.T) {
 	}
 }
 
+func TestRest(t *testing.T) {
+	r := NewReader("abc")
+	if s := r.Rest(); s != "abc" || r.At() != 0 {
+		t.Errorf("Rest at the beginning = %q, then at %d", s, r.At())
+	}
+	r.Take(1)
+	if s := r.Rest(); s != "bc" || r.At() != 1 {
+		t.Errorf("Rest behind a byte = %q, then at %d", s, r.At())
+	}
+	r.Take(2)
+	if s := r.Rest(); s != "" || !r.Good() {
+		t.Errorf("Rest at the end = %q, %v", s, r.Good())
+	}
+	r = NewReader("abc")
+	r.Fail(api.ErrTag, 0)
+	if s := r.Rest(); s != "" {
+		t.Errorf("Rest behind an error = %q", s)
+	}
+}
+
 func TestFinish(t *testing.T) {
 	r := NewReader("ab")
 	r.Take(1)
