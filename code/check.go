@@ -10,11 +10,11 @@ import (
 
 // The types of locals, in the order in which loads and stores of them have their numbers.
 const (
-	ofInt uint8 = iota
-	ofLong
-	ofFloat
-	ofDouble
-	ofReference
+	OfInt = iota
+	OfLong
+	OfFloat
+	OfDouble
+	OfReference
 )
 
 // checker: looks at operands.
@@ -44,29 +44,29 @@ func Check(l []api.Ins, p []api.Const, locals int) (api.Errno, int) {
 
 // localHolds: is its local there, if it has one?
 func (c *checker) localHolds(i api.Ins) bool {
-	number, of, has := localOf(i)
+	number, of, has := Local(i)
 	if !has {
 		return true
 	}
 	if number < 0 || number >= c.locals {
 		return false
 	}
-	return of != ofLong && of != ofDouble || number < c.locals-1
+	return of != OfLong && of != OfDouble || number < c.locals-1
 }
 
-// localOf: the local of an instruction and its type; false if it has none.
-func localOf(i api.Ins) (int, uint8, bool) {
+// Local: the local of an instruction and its type, by the number of that in their order; false if it has none.
+func Local(i api.Ins) (int, int, bool) {
 	switch op := i.Op; {
 	case within(op, 21, 25):
-		return i.A, op - 21, true
+		return i.A, int(op - 21), true
 	case within(op, 26, 45):
-		return int(op-26) % 4, (op - 26) / 4, true
+		return int(op-26) % 4, int(op-26) / 4, true
 	case within(op, 54, 58):
-		return i.A, op - 54, true
+		return i.A, int(op - 54), true
 	case within(op, 59, 78):
-		return int(op-59) % 4, (op - 59) / 4, true
+		return int(op-59) % 4, int(op-59) / 4, true
 	case op == 132:
-		return i.A, ofInt, true
+		return i.A, OfInt, true
 	}
 	return 0, 0, false
 }

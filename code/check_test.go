@@ -262,3 +262,27 @@ func TestCheckAgain(t *testing.T) {
 		}
 	}
 }
+
+// Each load and store has its local and that one's type, and nothing else has any.
+func TestLocal(t *testing.T) {
+	for op := range 256 {
+		k, of, has := Local(api.Ins{Op: uint8(op), A: 77})
+		number, kind, want := 77, 0, true
+		switch {
+		case op >= 21 && op <= 25:
+			kind = op - 21
+		case op >= 26 && op <= 45:
+			number, kind = (op-26)%4, (op-26)/4
+		case op >= 54 && op <= 58:
+			kind = op - 54
+		case op >= 59 && op <= 78:
+			number, kind = (op-59)%4, (op-59)/4
+		case op == 132:
+		default:
+			number, want = 0, false
+		}
+		if k != number || of != kind || has != want {
+			t.Errorf("%d: %d, %d, %v, want %d, %d, %v", op, k, of, has, number, kind, want)
+		}
+	}
+}

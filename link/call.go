@@ -47,5 +47,5 @@ func standsFor(x, m api.Member) bool {
 	if x.Flags&(api.Static|api.Private) != 0 {
 		return false
 	}
-	return x == m || m.Flags&(api.Public|api.Protected) != 0 || samePackage(x.Class, m.Class)
+	return x == m || m.Flags&(api.Public|api.Protected) != 0 || SamePackage(x.Class, m.Class)
 }

@@ -11,6 +11,7 @@ type entry struct {
 	name            string
 	above           []string // Super, then the interfaces in order; nothing of java/lang/Object
 	fields, methods members
+	first           bool // it was there at first
 	state           int
 	wrong           api.Errno // what was found when it was looked at
 }

@@ -88,5 +88,5 @@ func (v *visit) wrongWith(next *entry) api.Errno {
 
 // seen: may the class be seen by another?
 func (c *entry) seen(from string) bool {
-	return c.is(api.Public) || samePackage(from, c.name)
+	return c.is(api.Public) || SamePackage(from, c.name)
 }

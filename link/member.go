@@ -69,7 +69,7 @@ func (w *World) usable(from string, m api.Member) bool {
 		return true
 	case m.Flags&api.Private != 0:
 		return false
-	case samePackage(from, m.Class):
+	case SamePackage(from, m.Class):
 		return true
 	}
 	return m.Flags&api.Protected != 0 && w.Load(from) == api.OK && !isArray(from) && w.under(from, m.Class)

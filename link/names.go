@@ -38,8 +38,8 @@ func core(name string) (string, bool) {
 	return inside(name[strings.LastIndexByte(name, '['):])
 }
 
-// samePackage: are two classes in one?
-func samePackage(a, b string) bool {
+// SamePackage: are two classes in one?
+func SamePackage(a, b string) bool {
 	return packageOf(a) == packageOf(b)
 }
 

@@ -35,8 +35,13 @@ func (w *World) under(a, b string) bool {
 	return hasA && hasB && w.under(inA, inB)
 }
 
+// classUnder: what is no interface can stand above a class by Super alone.
 func (w *World) classUnder(c *entry, b string) bool {
-	for x := range w.reach(c) {
+	way := w.upward(c)
+	if w.Interface(b) {
+		way = w.reach(c)
+	}
+	for x := range way {
 		if x.name == b {
 			return true
 		}
