@@ -14,15 +14,6 @@ type reader struct {
 
 // Read: the frames of a map, by a pool and the locals at first; or the error, and its place.
 func Read(s string, p []api.Const, first []api.VType) ([]api.Frame, api.Errno, int) {
-	l, e, place := Frames(s, p, first)
-	for k := range l {
-		l[k].Locals = append([]api.VType(nil), l[k].Locals...)
-	}
-	return l, e, place
-}
-
-// Frames: as Read, but locals that are told as ahead lie in one list, which may only be read: a short map may tell very many.
-func Frames(s string, p []api.Const, first []api.VType) ([]api.Frame, api.Errno, int) {
 	r := reader{wire.NewReader(s), p}
 	l := r.frames(beginning(first))
 	if e, place := r.Err(); e != api.OK {
@@ -94,9 +85,9 @@ func (r *reader) height(tag int) int {
 	return 0
 }
 
-// types: those that are kept, and n more that are read. Where the kept ones lie others may stand behind them: the list does not grow there.
+// types: a new list: those that are kept, and n more that are read.
 func (r *reader) types(kept []api.VType, n int) []api.VType {
-	l := kept[:len(kept):len(kept)]
+	l := append([]api.VType(nil), kept...)
 	for range n {
 		t := r.vtype()
 		if !r.Good() {

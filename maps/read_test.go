@@ -1,7 +1,6 @@
 package maps
 
 import (
-	"reflect"
 	"strings"
 	"testing"
 
@@ -144,43 +143,4 @@ func TestFirstError(t *testing.T) {
 	wrongMap(t, "\x00\x01\xff\x00\x00\x00\x01\x07\x00\x01\x00\x01\x09", nil, api.ErrIndex, 7)
 	wrongMap(t, "\x00\x01\xff\x00\x00\x00\x02\x09", nil, api.ErrMap, 7)
 	wrongMap(t, "\x00\x02\x40\x07\x00\x00", nil, api.ErrIndex, 3)
-}
-
-// Frames tells what Read does; where a frame has the locals of the one ahead, they are one list, and no frame writes into that of another.
-func TestFrames(t *testing.T) {
-	first := []api.VType{{Tag: api.Int}, {Tag: api.Float32}}
-	for _, s := range []string{
-		"\x00\x00", "\x00\x03\x00\x00\x00",
-		"\x00\x05\x00\xfd\x00\x00\x01\x02\xfa\x00\x00\xfc\x00\x00\x05\x00", // two more, one less, another more
-		"\x00\x04\xff\x00\x00\x00\x03\x01\x01\x01\x00\x00\xf9\x00\x00\xfc\x00\x00\x02\xfc\x00\x00\x04",
-		"\x00\x01\x80", "\x00\x02\x00\xf8\x00\x00", "\x00",
-	} {
-		l, e, place := Read(s, nil, first)
-		m, f, at := Frames(s, nil, first)
-		if e != f || place != at || !reflect.DeepEqual(stripped(l), stripped(m)) {
-			t.Errorf("%x: Frames = %v, %d, %d, Read = %v, %d, %d", s, m, f, at, l, e, place)
-		}
-	}
-	m, _, _ := Frames("\x00\x02\x00\x00", nil, first)
-	if &m[0].Locals[0] != &m[1].Locals[0] {
-		t.Errorf("locals that are told as ahead lie in two lists")
-	}
-	if first[0].Tag != api.Int || first[1].Tag != api.Float32 {
-		t.Errorf("the locals at first are %v now", first)
-	}
-}
-
-// stripped: without lists that are empty.
-func stripped(l []api.Frame) []api.Frame {
-	var out []api.Frame
-	for _, f := range l {
-		if len(f.Locals) == 0 {
-			f.Locals = nil
-		}
-		if len(f.Stack) == 0 {
-			f.Stack = nil
-		}
-		out = append(out, f)
-	}
-	return out
 }

@@ -40,7 +40,7 @@ func (m *method) readMap(first []api.VType) {
 	if m.told.Code.Map == "" {
 		return
 	}
-	l, e, _ := maps.Frames(m.told.Code.Map, m.Pool, first)
+	l, e, _ := maps.Read(m.told.Code.Map, m.Pool, first)
 	if e != api.OK {
 		leave(api.ErrMap)
 	}

@@ -88,6 +88,8 @@ func TestHandlersRoom(t *testing.T) {
 	m.catch(1, 2, 4, "").frames(inLocals(4)).want("in reach", wrong(1))
 	static(t, 0, 0, ops(0, 0, 0), ret, ret).catch(1, 2, 4, "").want("no frame", wrong(1))
 	static(t, 0, 0, ops(0, 0, 0), ret, ret).frames(inLocals(4)).want("none", fine)
+	m = subject(t).routine(api.Static, "m", "(LA;)V", 0, 1, ops(0, 0, 0), ret, ret).takes(obj("A"))
+	m.catch(1, 2, 4, "").frames(inLocals(4, obj("Ring"))).want("ahead of the locals", wrong(1))
 }
 
 // Locals may change and change back: what could go on once is looked at again.
@@ -101,6 +103,16 @@ func TestHandlersAgain(t *testing.T) {
 	branch := subject(t).routine(api.Static, "m", "(I)V", 1, 1, ops(0), jump(167, 1, 7), ret, ops(87), ret, ops(0), ret).takes(intT)
 	branch.catch(0, 8, 5, "").frames(api.Frame{At: 4, Locals: types(intT)}, api.Frame{At: 5, Locals: types(intT), Stack: types(obj(throwableName))}, inLocals(7))
 	branch.want("a frame that has less", wrong(7))
+	// 0 return; 1 nop, 2 new, 5 pop, 6 return; 7 pop, 8 return: 187 takes what it made the last time from the local
+	s := newScene(t)
+	again := s.static(1, 1, ret, ops(0), s.make("A"), ops(87), ret, ops(87), ret).catch(1, 6, 7, "")
+	again.frames(inLocals(1, fresh(2)), api.Frame{At: 7, Locals: types(fresh(2)), Stack: types(obj(throwableName))}).want("made again", wrong(5))
+	// 0 aload_0, 1 invokespecial, 4 return; 5 pop, 6 goto 6: behind <init> there is no FreshThis
+	s = newScene(t)
+	made := s.maker("()V", 1, 1, ops(42), s.init("A", "()V"), ret, ops(87), jump(167, 6, 6))
+	half := []api.Frame{{At: 5, Locals: types(thisT), Stack: types(obj(throwableName))}, inLocals(6, thisT)}
+	made.catch(0, 4, 5, "").frames(half...).want("up to <init>", fine)
+	made.catch(0, 5, 5, "").frames(half...).want("behind <init>", wrong(4))
 }
 
 // In <init> a handler must have FreshThis in a local while it is not made.

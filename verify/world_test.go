@@ -207,9 +207,9 @@ func checkBytes(t *testing.T, s string, near []*built) api.Errno {
 func TestGreatCode(t *testing.T) {
 	const n = 65000
 	b := subject(t)
-	of := "(" + strings.Repeat("LA;", 254) + ")V"
+	of := "(" + strings.Repeat("LA;", 50) + ")V"
 	m := b.routine(api.Static, "m", of, 65535, 65535, strings.Repeat("\x00", n), ret, ops(1, 191))
-	for range 254 {
+	for range 50 {
 		m.takes(obj("A"))
 	}
 	// as many frames, all as at first, and at the last what is caught
