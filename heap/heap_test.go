@@ -53,8 +53,39 @@ func TestNoThing(t *testing.T) {
 	for _, r := range []Ref{None, 2, -2, 3, -3, math.MaxInt, math.MinInt} {
 		_, got := h.Get(r, 0)
 		_, is := h.Word(r, 0)
-		if got || is || h.Put(r, 0, None) || h.Set(r, 0, 1) {
+		h.SetKind(r, 7)
+		refs, words := h.Size(r)
+		if got || is || h.Put(r, 0, None) || h.Set(r, 0, 1) || h.Kind(r) != 0 || refs != 0 || words != 0 {
 			t.Errorf("a thing at %d", r)
+		}
+	}
+}
+
+// What a thing is, and its size, go with it wherever it moves; a new one at the place of one that has gone is of no kind.
+func TestKind(t *testing.T) {
+	for _, room := range rooms(300) {
+		h := New(300, room)
+		held := list{}
+		for k := range 20 {
+			r, ok := h.Make(held, k%4, k%3)
+			if !ok || h.Kind(r) != 0 {
+				t.Fatalf("room %d: Make %d: %v, of kind %d", room, k, ok, h.Kind(r))
+			}
+			h.SetKind(r, k+1)
+			held = append(held, r)
+		}
+		for turn := range 3 {
+			for k, r := range held {
+				refs, words := h.Size(r)
+				if r == None && (h.Kind(r) != 0 || refs != 0 || words != 0) || r != None && (h.Kind(r) != k+1 || refs != k%4 || words != k%3) {
+					t.Fatalf("room %d, turn %d, thing %d: kind %d, %d references, %d words", room, turn, k, h.Kind(r), refs, words)
+				}
+			}
+			h.Collect(held, turn == 1)
+			held[turn] = None
+		}
+		if r, _ := h.Make(held, 0, 0); h.Kind(r) != 0 {
+			t.Fatalf("room %d: a new thing is of kind %d", room, h.Kind(r))
 		}
 	}
 }

@@ -27,7 +27,7 @@ func (w *World) selected(m api.Member, thing string) (api.Member, api.Errno) {
 	switch {
 	case !found, x.Flags&api.Abstract != 0:
 		return api.Member{}, api.ErrAbstract
-	case w.classes[m.Class].is(api.Interface) && x.Flags&api.Public == 0:
+	case w.Interface(m.Class) && x.Flags&api.Public == 0:
 		return api.Member{}, api.ErrAccess
 	}
 	return x, api.OK

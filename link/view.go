@@ -7,7 +7,7 @@ import (
 	"jvmcore/api"
 )
 
-// What follows is for the layers that go by what is in classes. None of it looks at a class as Load does.
+// What follows is for the layers that go by what is in classes. None of it but Find looks at a class as Load does.
 
 // File: a class as its file has it, in lists of its own; false if there is none of that name.
 func (w *World) File(name string) (api.Class, bool) {
@@ -56,4 +56,25 @@ func (w *World) Above(class, name, of string) iter.Seq[api.Member] {
 			}
 		}
 	}
+}
+
+// Find: a class is found from another: OK, or what is wrong.
+func (w *World) Find(from, name string) api.Errno {
+	_, e := w.find(from, name)
+	return e
+}
+
+// Selected: what is called of a thing of a class, where a method is referred to. Of a class that was not found right there is none.
+func (w *World) Selected(m api.Member, thing string) (api.Member, api.Errno) {
+	if !w.foundRight(thing) {
+		return api.Member{}, api.ErrAbstract
+	}
+	return w.selected(m, thing)
+}
+
+// foundRight: was the class, or what is in the array, looked at and found right? (Values that are no references always are.)
+func (w *World) foundRight(name string) bool {
+	class, isClass := core(name)
+	c, there := w.classes[class]
+	return !isClass || there && c.state == looked && c.wrong == api.OK
 }

@@ -88,3 +88,51 @@ func TestAbove(t *testing.T) {
 		break
 	}
 }
+
+// A class is found as a reference's class is.
+func TestFind(t *testing.T) {
+	w := worldOf(t, newBuilt("A", object, open), newBuilt("q/Shut", object, hidden), newBuilt("q/B", object, open), newBuilt("Low", "None", open), newBuilt("Ring", "Ring", open))
+	for _, c := range []struct {
+		from, name string
+		e          api.Errno
+	}{
+		{"A", "A", api.OK}, {"A", object, api.OK}, {"A", "[I", api.OK}, {"A", "[[LA;", api.OK}, {"q/B", "q/Shut", api.OK}, {"q/B", "[Lq/Shut;", api.OK}, {"[Lq/B;", "q/Shut", api.OK},
+		{"A", "q/Shut", api.ErrAccess}, {"A", "[[Lq/Shut;", api.ErrAccess}, {"A", "None", api.ErrNoClass}, {"A", "[LNone;", api.ErrNoClass}, {"A", "", api.ErrNoClass}, {"A", "[V", api.ErrNoClass}, {"A", "Low", api.ErrNoClass}, {"A", "Ring", api.ErrCircle}, {"None", "A", api.OK},
+	} {
+		if e := w.Find(c.from, c.name); e != c.e {
+			t.Errorf("Find(%q, %q) = %d, want %d", c.from, c.name, e, c.e)
+		}
+	}
+}
+
+// Selected: as Call selects, but that what the thing is of is not looked at.
+func TestSelected(t *testing.T) {
+	w := worldOf(t,
+		newBuilt("A", object, open|api.Abstract).method(api.Public, "m", "()V").method(api.Private, "p", "()V").method(api.Public|api.Abstract, "x", "()V"),
+		newBuilt("B", "A", open, "I").method(api.Public, "m", "()V").method(api.Public, "p", "()V").method(0, "i", "()V"),
+		newBuilt("C", "B", open),
+		newBuilt("I", object, openFace).method(api.Public|api.Abstract, "i", "()V"),
+		newBuilt("Low", "None", open))
+	for _, name := range []string{"C", "I", "Low"} {
+		w.Load(name)
+	}
+	method := func(class, name string, flags uint16) api.Member {
+		return api.Member{Class: class, Name: name, Type: "()V", Flags: flags}
+	}
+	for _, c := range []struct {
+		m     api.Member
+		thing string
+		want  string
+	}{
+		{method("A", "m", api.Public), "A", "A"}, {method("A", "m", api.Public), "B", "B"}, {method("A", "m", api.Public), "C", "B"},
+		{method("A", "p", api.Private), "C", "A"}, {method("A", "x", api.Public|api.Abstract), "C", errorText(api.ErrAbstract)},
+		{method("I", "i", api.Public|api.Abstract), "C", errorText(api.ErrAccess)}, {method("I", "i", api.Public|api.Abstract), object, errorText(api.ErrAbstract)},
+		{method(object, "notify", api.Public|api.Native), "[LC;", object}, {method(object, "notify", api.Public|api.Native), "[I", object}, {method(object, "notify", api.Public|api.Native), "C", object},
+		{method("A", "m", api.Public), "None", errorText(api.ErrAbstract)}, {method("A", "m", api.Public), "Low", errorText(api.ErrAbstract)}, {method("A", "m", api.Public), "[LLow;", errorText(api.ErrAbstract)}, {method("A", "m", api.Public), "", errorText(api.ErrAbstract)},
+		{method("None", "m", api.Public), "C", "B"},
+	} {
+		if got := answer(w.Selected(c.m, c.thing)); got != c.want {
+			t.Errorf("%s.%s of a thing of %q: %s, want %s", c.m.Class, c.m.Name, c.thing, got, c.want)
+		}
+	}
+}

@@ -1,0 +1,101 @@
+package vm
+
+import (
+	"math/rand"
+	"slices"
+	"testing"
+
+	"jvmcore/api"
+	classfile "jvmcore/class"
+)
+
+// Code that was changed at random ends, dies or is refused, and nothing panics, whenever is collected.
+func TestChangedCode(t *testing.T) {
+	r := rand.New(rand.NewSource(78))
+	single := []byte{1, 2, 3, 4, 9, 14, 26, 27, 28, 42, 43, 44, 46, 50, 59, 60, 61, 63, 75, 76, 77, 79, 83, 87, 88, 89, 90, 91, 92, 93, 94, 95, 96, 108, 116, 133, 190, 191, 194, 195}
+	ran := 0
+	for seed := range int64(30) {
+		a, b := modelClasses(t)
+		m := &model{r: rand.New(rand.NewSource(seed)), statics: map[string]valueModel{}, texts: map[string]*thingModel{}}
+		a.main(24, 8, func(c *coder) {
+			m.coder = c
+			m.write(30)
+		})
+		for range 300 {
+			c := a.Class
+			c.Methods = slices.Clone(c.Methods)
+			for range 1 + r.Intn(2) {
+				code := &c.Methods[len(c.Methods)-1].Code // main's
+				s, at := []byte(code.Bytes), r.Intn(len(code.Bytes))
+				switch r.Intn(3) {
+				case 0:
+					s[at] = byte(r.Intn(203))
+				case 1:
+					s[at] += byte(r.Intn(5) - 2)
+				default:
+					s = slices.Insert(s, at, single[r.Intn(len(single))])
+				}
+				code.Bytes = string(s)
+			}
+			s, _ := classfile.Write(c)
+			v := machine(t, Options{100 + r.Intn(200), 20, 2 + r.Intn(10)}, b)
+			v.Define(s)
+			if _, e := v.Start("A"); e != api.OK {
+				continue
+			}
+			ran++
+			for range 10 {
+				v.Run(0, 1+r.Intn(30))
+				v.Collect(r.Intn(2) == 0)
+			}
+			v.Run(0, 10000)
+			if s, why, e := v.Thread(0); s != 2 && s != 3 || (s == 3) != (why != "") || e != api.OK {
+				t.Fatalf("the thread: %d, %q, %d", s, why, e)
+			}
+		}
+	}
+	if ran < 100 {
+		t.Errorf("only %d of them ran", ran)
+	}
+}
+
+// A frame may tell a long on the stack as Top, of one slot. What is then taken for another thing is of no harm.
+func TestTopOnStack(t *testing.T) {
+	top := api.VType{}
+	others := []*built{
+		newBuilt(t, "X", objectName, open).maker().field(0, "a", anyType).field(0, "n", "J").says(api.Private, "p", "()V", 1).says(api.Public, "v", "()V", 2),
+		newBuilt(t, "Y", objectName, open).maker(),
+	}
+	// As known to the verifier: below the Top stands a thing that is taken for one of another class.
+	for _, c := range []struct {
+		as   string
+		push func(c *coder)
+		use  func(c *coder)
+	}{
+		{"X", func(c *coder) { c.made("Y") }, func(c *coder) { c.member(180, "X", "a", anyType).ops(87) }},
+		{"X", func(c *coder) { c.made("Y") }, func(c *coder) { c.long(1).member(181, "X", "n", "J") }},
+		{"X", func(c *coder) { c.made("Y") }, func(c *coder) { c.virtual("X", "v", "()V") }},
+		{"X", func(c *coder) { c.ops(3, 188, 10) }, func(c *coder) { c.ops(89).member(181, "X", "a", anyType) }},
+		{stringName, func(c *coder) { c.made("X") }, func(c *coder) { c.ops(89).ofText("concat").printText() }},
+		{stringName, func(c *coder) { c.made("X") }, func(c *coder) { c.ops(3).ofText("charAt").ops(87) }},
+		{"[I", func(c *coder) { c.made("X") }, func(c *coder) { c.ops(4, 46).print("I") }},
+		{"[B", func(c *coder) { c.made("X") }, func(c *coder) { c.ops(3, 4, 84) }},
+		{"[LX;", func(c *coder) { c.made("X") }, func(c *coder) { c.ops(3, 1, 83) }},
+		{"[LX;", func(c *coder) { c.ops(5, 188, 10) }, func(c *coder) { c.ops(89, 3, 95, 3, 50, 83) }},
+		{"[[I", func(c *coder) { c.made("Y") }, func(c *coder) { c.ops(190).print("I") }},
+		{"java/lang/Throwable", func(c *coder) { c.made("Y") }, func(c *coder) { c.ops(89).jump(198, "on").ops(191).mark("on", nil, obj("java/lang/Throwable")).ops(87) }},
+	} {
+		v := started(t, usual, plain(t, 10, 0, func(x *coder) {
+			x.made("Y").ops(87, 1).with(192, x.class(c.as))
+			c.push(x)
+			x.ops(9).jump(167, "on!").mark("on!", nil, obj(c.as), anyT, top).ops(95, 87, 87)
+			c.use(x)
+		}), others[0], others[1])
+		for k := 0; v.Run(0, 1) == 1; k++ {
+			v.Collect(k%2 == 0)
+		}
+		if s, _, _ := v.Thread(0); s != 2 && s != 3 {
+			t.Errorf("as %s: state %d", c.as, s)
+		}
+	}
+}
