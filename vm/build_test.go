@@ -87,7 +87,7 @@ func (b *built) method(flags uint16, name, of string, stack, locals int, write f
 	c := &coder{built: b, marks: map[string]int{}}
 	write(c)
 	m := api.Method{Flags: flags, Name: b.text(name), Type: b.text(of), HasCode: true}
-	m.Code = api.Code{MaxStack: stack, MaxLocals: locals, Bytes: c.linked(), Map: c.mapped()}
+	m.Code = api.Code{MaxStack: stack, MaxLocals: locals, Bytes: c.linked(), Map: c.mapped(), Handlers: c.handlers()}
 	b.Methods = append(b.Methods, m)
 	return b
 }
@@ -118,12 +118,35 @@ type coder struct {
 	marks  map[string]int
 	jumps  []jump
 	frames []api.Frame
+	guards []guard
 }
 
 // jump: of an instruction at a place, with an offset in some bytes at another.
 type jump struct {
 	from, at, size int
 	mark           string
+}
+
+// guard: a handler, by marks, of a class (empty: of any).
+type guard struct {
+	from, to, target, class string
+}
+
+func (c *coder) guard(from, to, target, class string) *coder {
+	c.guards = append(c.guards, guard{from, to, target, class})
+	return c
+}
+
+func (c *coder) handlers() []api.Handler {
+	var l []api.Handler
+	for _, g := range c.guards {
+		h := api.Handler{From: c.marks[g.from], To: c.marks[g.to], Target: c.marks[g.target]}
+		if g.class != "" {
+			h.Type = c.class(g.class)
+		}
+		l = append(l, h)
+	}
+	return l
 }
 
 func (c *coder) ops(l ...byte) *coder {
@@ -133,6 +156,12 @@ func (c *coder) ops(l ...byte) *coder {
 
 // with: an instruction, and an index behind it.
 func (c *coder) with(op byte, k uint16) *coder { return c.ops(op, byte(k>>8), byte(k)) }
+
+// here: a place that is named, to which nothing jumps.
+func (c *coder) here(name string) *coder {
+	c.marks[name] = len(c.code)
+	return c
+}
 
 // mark: a place that is jumped to, with these locals and this stack there.
 func (c *coder) mark(name string, locals []api.VType, stack ...api.VType) *coder {

@@ -38,11 +38,12 @@ type signature struct {
 // method: of a class.
 type method struct {
 	api.Member
-	class *class
-	code  api.Code
-	list  []api.Ins // made when it is first needed; targets are numbers in it
-	slots int       // of what it takes, its thing among it
-	gives string
+	class    *class
+	code     api.Code
+	list     []api.Ins // made when it is first needed, as the handlers are; targets are numbers in it
+	handlers []handler
+	slots    int // of what it takes, its thing among it
+	gives    string
 }
 
 // class: of a name that is one of the world's.
@@ -136,6 +137,11 @@ func (m *method) instructions() []api.Ins {
 		for k, place := range i.Targets {
 			i.Targets[k] = numbers[place]
 		}
+	}
+	numbers[len(m.code.Bytes)] = len(m.list)
+	for _, h := range m.code.Handlers {
+		name, _ := m.class.Class(int(h.Type))
+		m.handlers = append(m.handlers, handler{numbers[h.From], numbers[h.To], numbers[h.Target], name})
 	}
 	return m.list
 }

@@ -26,14 +26,14 @@ func (s step) initialise(c *class) stop {
 	if e, _, _ := verify.Verify(s.world, c.name); e != api.OK {
 		return ofLink(e)
 	}
-	if s.isFull() {
-		return stackOverflow
-	}
 	return s.begin(c)
 }
 
 // begin: the static fields of a class that was verified are there, and a frame more, that initialises it.
 func (s step) begin(c *class) stop {
+	if s.isFull() {
+		return stackOverflow
+	}
 	if !s.setStatics(c) {
 		c.state = failed
 		return outOfMemory

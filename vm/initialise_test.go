@@ -75,16 +75,23 @@ func TestMainClassDepth(t *testing.T) {
 	}
 }
 
-// Where there may be but one frame, main runs all the same, and calls nothing but native methods.
+// Where there may be but one frame there is none for main's class: what is thrown for it is no step of the thread, which holds nothing then. A handler of main that has its first place in reach takes it.
 func TestMainAlone(t *testing.T) {
-	v := started(t, Options{100, 20, 1}, plain(t, 1, 0, func(c *coder) { c.ops(8).print("I") }))
-	if n := v.Run(0, 100); n != 4 || ends(t, v) != "5" {
-		t.Errorf("%d steps, printed %q", n, v.Out())
+	v := machine(t, Options{100, 20, 1}, plain(t, 1, 0, func(c *coder) { c.ops(8).print("I") }))
+	for k := range 3 { // the class stays as it was
+		if n, e := v.Start("A"); n != k || e != api.OK {
+			t.Fatalf("Start = %d, %d", n, e)
+		}
+		if s, why, e := v.Thread(k); s != 3 || why != "java/lang/StackOverflowError" || e != api.OK || v.Run(k, 5) != 0 || v.Live() != 2 {
+			t.Errorf("turn %d: %d, %q, %d, %d words", k, s, why, e, v.Live())
+		}
 	}
-	v = started(t, Options{100, 20, 1}, plain(t, 1, 0, func(c *coder) { c.static("A", "main", "()V") }))
-	v.Run(0, 100)
-	if s, why, _ := v.Thread(0); s != 3 || why != "java/lang/StackOverflowError" {
-		t.Errorf("a call: %d, %q", s, why)
+	v = started(t, Options{100, 20, 1}, guarded(t, 1, 0, lang+"StackOverflowError", func(c *coder) { c.ops(8).print("I") }))
+	if n := v.Live(); n != 4 {
+		t.Errorf("taken: %d words", n)
+	}
+	if n := v.Run(0, 100); n != 4 || ends(t, v) != "9" {
+		t.Errorf("taken: %d steps, printed %q", n, v.Out())
 	}
 }
 

@@ -25,6 +25,7 @@ const (
 	opThrow        = 191
 	opCast         = 192
 	opIs           = 193
+	opEnter        = 194
 	opNewDeep      = 197
 	opIfNull       = 198
 	opIfThing      = 199
@@ -65,10 +66,8 @@ func (s step) end(x stop) bool {
 	case stays:
 	case blocked:
 		return false
-	case given:
-		s.die(s.kindOf(s.top(0, 1).ref).name)
 	default:
-		s.die(x.class())
+		s.throw(s.thingOf(x))
 	}
 	return true
 }

@@ -14,6 +14,7 @@ const (
 	arrayIndex
 	arrayStore
 	classCast
+	illegalMonitor
 	negativeSize
 	nullPointer
 	textIndex
@@ -21,6 +22,7 @@ const (
 	classCircularity
 	classChange
 	illegalAccess
+	inInitializer
 	instantiation
 	noClass
 	noField
@@ -39,6 +41,7 @@ var thrown = [...]string{
 	arrayIndex:       "ArrayIndexOutOfBoundsException",
 	arrayStore:       "ArrayStoreException",
 	classCast:        "ClassCastException",
+	illegalMonitor:   "IllegalMonitorStateException",
 	negativeSize:     "NegativeArraySizeException",
 	nullPointer:      "NullPointerException",
 	textIndex:        "StringIndexOutOfBoundsException",
@@ -46,6 +49,7 @@ var thrown = [...]string{
 	classCircularity: "ClassCircularityError",
 	classChange:      "IncompatibleClassChangeError",
 	illegalAccess:    "IllegalAccessError",
+	inInitializer:    "ExceptionInInitializerError",
 	instantiation:    "InstantiationError",
 	noClass:          "NoClassDefFoundError",
 	noField:          "NoSuchFieldError",

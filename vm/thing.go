@@ -182,18 +182,21 @@ func ofBool(is bool) uint64 {
 	return 0
 }
 
-// touch: 190, 191, 194, 195, which need a thing. (Locks are for chapter 12.)
+// touch: 190, 191, 194, 195, which need a thing.
 func (s step) touch(op uint8) stop {
 	thing := s.top(0, 1).ref
-	switch {
-	case thing == heap.None:
+	if thing == heap.None {
 		return nullPointer
-	case op == opThrow:
-		return given
 	}
-	s.drop(1)
-	if op == opLength {
+	switch op {
+	case opLength:
+		s.drop(1)
 		s.giveBits(1, ofInt(s.length(thing)))
+		return goesOn
+	case opThrow:
+		return given
+	case opEnter:
+		return s.enterLock(thing)
 	}
-	return goesOn
+	return s.exitLock(thing)
 }

@@ -23,13 +23,3 @@ func (t *thread) leave() {
 	t.frames[last] = nil
 	t.frames = t.frames[:last]
 }
-
-// die: of what is thrown of a class. (That handlers take it is for chapter 11.)
-func (t *thread) die(why string) {
-	for _, f := range t.frames {
-		if f.starts != nil {
-			f.starts.state = failed
-		}
-	}
-	t.frames, t.state, t.why = nil, died, why
-}
