@@ -54,8 +54,9 @@ func TestNoThing(t *testing.T) {
 		_, got := h.Get(r, 0)
 		_, is := h.Word(r, 0)
 		h.SetKind(r, 7)
+		h.SetMark(r, 7)
 		refs, words := h.Size(r)
-		if got || is || h.Put(r, 0, None) || h.Set(r, 0, 1) || h.Kind(r) != 0 || refs != 0 || words != 0 {
+		if got || is || h.Put(r, 0, None) || h.Set(r, 0, 1) || h.Kind(r) != 0 || h.Mark(r) != nil || refs != 0 || words != 0 {
 			t.Errorf("a thing at %d", r)
 		}
 	}
@@ -86,6 +87,38 @@ func TestKind(t *testing.T) {
 		}
 		if r, _ := h.Make(held, 0, 0); h.Kind(r) != 0 {
 			t.Fatalf("room %d: a new thing is of kind %d", room, h.Kind(r))
+		}
+	}
+}
+
+// So does what is kept beside it.
+func TestMark(t *testing.T) {
+	for _, room := range rooms(300) {
+		h := New(300, room)
+		held := list{}
+		marks := make([]*int, 20)
+		for k := range marks {
+			r, ok := h.Make(held, k%4, k%3)
+			if !ok || h.Mark(r) != nil {
+				t.Fatalf("room %d: Make %d: %v, with a mark", room, k, ok)
+			}
+			held = append(held, r)
+			if k%5 > 0 {
+				marks[k] = new(int)
+				h.SetMark(r, marks[k])
+			}
+		}
+		for turn := range 3 {
+			for k, r := range held {
+				if got, has := h.Mark(r).(*int); has != (r != None && k%5 > 0) || has && got != marks[k] {
+					t.Fatalf("room %d, turn %d, thing %d: mark %v", room, turn, k, got)
+				}
+			}
+			h.Collect(held, turn == 1)
+			held[turn] = None
+		}
+		if r, _ := h.Make(held, 0, 0); h.Mark(r) != nil {
+			t.Fatalf("room %d: a new thing has a mark", room)
 		}
 	}
 }
