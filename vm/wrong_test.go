@@ -99,3 +99,73 @@ func TestTopOnStack(t *testing.T) {
 		}
 	}
 }
+
+// spoil: a handler of a method is another, or a byte of its code.
+func spoil(r *rand.Rand, c *api.Class) {
+	code := &c.Methods[r.Intn(len(c.Methods))].Code
+	if n := len(code.Handlers); n > 0 && r.Intn(4) > 0 {
+		code.Handlers = slices.Clone(code.Handlers)
+		h, other := &code.Handlers[r.Intn(n)], code.Handlers[r.Intn(n)]
+		places := []int{0, len(code.Bytes), other.From, other.To, other.Target, r.Intn(len(code.Bytes))}
+		switch r.Intn(4) {
+		case 0:
+			h.From = places[r.Intn(len(places))]
+		case 1:
+			h.To = places[r.Intn(len(places))]
+		case 2:
+			h.Target = other.Target
+		default:
+			h.Type = uint16(r.Intn(len(c.Pool)))
+		}
+		return
+	}
+	s, at := []byte(code.Bytes), r.Intn(len(code.Bytes))
+	if s[at] = byte(r.Intn(203)); r.Intn(2) == 0 {
+		s[at] = byte(r.Intn(len(c.Pool)))
+	}
+	code.Bytes = string(s)
+}
+
+// So do classes with handlers, with <clinit> and of what is thrown, by several threads.
+func TestChangedClasses(t *testing.T) {
+	r := rand.New(rand.NewSource(79))
+	ran := 0
+	for range 60 {
+		w := newWorld(r)
+		files := map[string]string{}
+		for name, c := range w.classes {
+			files[name] = c.built(t).bytes()
+		}
+		for range 20 {
+			changed := w.classes[modelThings[r.Intn(len(modelThings))]].built(t)
+			c := changed.Class
+			c.Methods = slices.Clone(c.Methods)
+			for range 1 + r.Intn(2) {
+				spoil(r, &c)
+			}
+			s, _ := classfile.Write(c)
+			v := machine(t, Options{100 + r.Intn(100), 20, 1 + r.Intn(10)})
+			if _, e := v.Define(s); e != api.OK {
+				continue
+			}
+			for name := range files {
+				v.Define(files[name])
+			}
+			v.Start("K0")
+			v.Start(changed.name)
+			ran += v.Threads() - 1
+			for range 30 {
+				v.Run(r.Intn(2), r.Intn(30))
+				v.Collect(r.Intn(2) == 0)
+			}
+			for n := range v.Threads() {
+				if s, why, e := v.Thread(n); s != 0 && s != 2 && s != 3 || (s == 3) != (why != "") || e != api.OK {
+					t.Fatalf("the thread: %d, %q, %d", s, why, e)
+				}
+			}
+		}
+	}
+	if ran < 100 {
+		t.Errorf("only %d of them ran", ran)
+	}
+}
