@@ -250,7 +250,7 @@ func TestMachines(t *testing.T) {
 	}
 }
 
-// What is thrown ends the thread, which holds nothing then. (What may take it is for another chapter.)
+// What is thrown, and taken by nobody, ends the thread, which holds nothing then.
 func TestDies(t *testing.T) {
 	for _, c := range []struct {
 		want  string
