@@ -195,7 +195,7 @@ func TestFailed(t *testing.T) {
 	}
 }
 
-// Main's class fails: the thread dies of it, those that wait and those that are started later of another error, in a step.
+// Main's class fails: the thread dies of it, those that wait of another error, in a step, those that are started later of that at once.
 func TestMainFails(t *testing.T) {
 	a := newBuilt(t, "A", objectName, open).main(1, 0, func(c *coder) { c.say(5).ops(177) }).starts(3, 1, func(c *coder) { c.array(9).ops(75).divide() })
 	v := started(t, usual, a)
@@ -207,11 +207,11 @@ func TestMainFails(t *testing.T) {
 	if n, e := v.Start("A"); n != 2 || e != api.OK {
 		t.Errorf("Start = %d, %d", n, e)
 	}
-	for n := 1; n < 3; n++ {
-		threadIs(t, "ahead", v, n, 0, "")
-		runs(t, "behind", v, n, 9, 1)
-		threadIs(t, "behind", v, n, 3, lang+"NoClassDefFoundError")
-	}
+	threadIs(t, "the third", v, 2, 3, lang+"NoClassDefFoundError")
+	runs(t, "the third", v, 2, 9, 0)
+	threadIs(t, "ahead", v, 1, 0, "")
+	runs(t, "behind", v, 1, 9, 1)
+	threadIs(t, "behind", v, 1, 3, lang+"NoClassDefFoundError")
 	if v.Live() != 2 || len(v.Out()) != 0 {
 		t.Errorf("%d words, printed %q", v.Live(), v.Out())
 	}
@@ -384,8 +384,8 @@ func TestNoRoomAtStart(t *testing.T) {
 		if n, e := v.Start("A"); n != k || e != api.OK {
 			t.Fatalf("Start = %d, %d", n, e)
 		}
-		runs(t, want, v, k, 9, k)
 		threadIs(t, want, v, k, 3, lang+want)
+		runs(t, want, v, k, 9, 0)
 		if v.Live() != 2 {
 			t.Errorf("%s: %d words", want, v.Live())
 		}

@@ -15,6 +15,16 @@ const (
 
 // initialise: a class, where it is needed: code goes on if it is, or if this thread does so already.
 func (s step) initialise(c *class) stop {
+	if c.state == untouched {
+		if e, _, _ := verify.Verify(s.world, c.name); e != api.OK {
+			return ofLink(e)
+		}
+	}
+	return s.initialiseVerified(c)
+}
+
+// initialiseVerified: Start has verified main's class already, as it tells the error itself.
+func (s step) initialiseVerified(c *class) stop {
 	switch {
 	case c.state == initialised, c.state == initialising && c.by == s.thread:
 		return goesOn
@@ -22,9 +32,6 @@ func (s step) initialise(c *class) stop {
 		return blocked
 	case c.state == failed:
 		return noClass
-	}
-	if e, _, _ := verify.Verify(s.world, c.name); e != api.OK {
-		return ofLink(e)
 	}
 	return s.begin(c)
 }

@@ -644,8 +644,14 @@ func (w *worldModel) start(c *classModel) {
 	th := &threadModel{worldModel: w}
 	th.next, th.stop = iter.Pull(th.main(c))
 	w.threads = append(w.threads, th)
-	if c.state == "" {
+	switch c.state {
+	case "":
 		th.next()
+	case "failed":
+		th.next()
+		w.seen[fmt.Sprint("failed at Start: state ", th.state)]++
+	case "by":
+		w.seen["by another at Start"]++
 	}
 }
 
@@ -684,7 +690,7 @@ func TestThrowModel(t *testing.T) {
 			th.stop()
 		}
 	}
-	for _, what := range []string{"cannot go on", "no room for a value", "no room for what is thrown", "above: java/lang/StackOverflowError", "above: java/lang/ExceptionInInitializerError", "above: java/lang/NoClassDefFoundError", "instead: java/lang/ExceptionInInitializerError", "taken: E0", "taken: E1", "taken: E2", "taken: java/lang/OutOfMemoryError", "taken: java/lang/VerifyError", "died: java/lang/StackOverflowError", "died: java/lang/NoClassDefFoundError"} {
+	for _, what := range []string{"cannot go on", "no room for a value", "no room for what is thrown", "above: java/lang/StackOverflowError", "above: java/lang/ExceptionInInitializerError", "above: java/lang/NoClassDefFoundError", "instead: java/lang/ExceptionInInitializerError", "taken: E0", "taken: E1", "taken: E2", "taken: java/lang/OutOfMemoryError", "taken: java/lang/VerifyError", "died: java/lang/StackOverflowError", "died: java/lang/NoClassDefFoundError", "failed at Start: state 0", "failed at Start: state 3", "by another at Start"} {
 		if seen[what] == 0 {
 			t.Errorf("never came up: %s; what did: %v", what, seen)
 		}
