@@ -83,7 +83,7 @@ func (s step) giveBack(op uint8) stop {
 	case s.starts != nil:
 		s.starts.state, s.starts.by = initialised, nil // the instruction that needed the class comes again
 	case len(s.frames) == 0:
-		s.state = ended
+		s.finish(ended, "")
 	default:
 		f := s.last()
 		if slots > 0 {

@@ -12,11 +12,10 @@ import (
 
 // The flags of most classes, and names that are needed often.
 const (
-	open       = api.Public | api.SuperFlag
-	openFace   = api.Public | api.Interface | api.Abstract
-	objectName = "java/lang/Object"
-	textType   = "Ljava/lang/String;"
-	anyType    = "Ljava/lang/Object;"
+	open     = api.Public | api.SuperFlag
+	openFace = api.Public | api.Interface | api.Abstract
+	textType = "Ljava/lang/String;"
+	anyType  = "Ljava/lang/Object;"
 )
 
 // built: a class file that is put together.

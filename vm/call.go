@@ -112,8 +112,8 @@ func (s step) enter(m *method) stop {
 	}
 	from := len(s.stack) - m.slots
 	f := newFrame(m, s.stack[from:]...)
-	if m.is(api.Synchronized) && !m.is(api.Static) {
-		f.lock = f.local(0).ref
+	if m.is(api.Synchronized) && !s.guard(f) {
+		return blocked
 	}
 	s.drop(m.slots)
 	s.frames = append(s.frames, f)

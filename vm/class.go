@@ -9,7 +9,9 @@ import (
 
 // Names that the chapters tell.
 const (
+	objectName = lang + "Object"
 	stringName = lang + "String"
+	threadName = lang + "Thread"
 	outName    = "jvm/Out"
 	initName   = "<init>"
 	clinitName = "<clinit>"
@@ -22,6 +24,7 @@ type class struct {
 	flags       uint16
 	state       int
 	by          *thread // that initialises it
+	lock        lock
 	methods     map[signature]*method
 	told        []api.Field       // its static fields
 	places      map[signature]int // of these, in statics

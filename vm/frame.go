@@ -14,7 +14,8 @@ type frame struct {
 	at     int      // the number of the instruction
 	locals []value  // those behind these hold nothing yet; so does the second of a long or double
 	stack  []value  // a long or double has one more above it that holds nothing
-	lock   heap.Ref // the thing whose lock is held for a Synchronized method
+	lock   *lock    // of a Synchronized method
+	held   heap.Ref // the thing that the lock goes with, if it is not that of a class
 	needs  *class   // that must be initialised ahead of the first instruction
 	starts *class   // that is initialised by this frame
 }

@@ -17,10 +17,13 @@ func (c *coder) throwNew(class string) *coder { return c.made(class).ops(191) }
 // say: a number is printed.
 func (c *coder) say(n byte) *coder { return c.ops(16, n).print("I") }
 
-// taker: what a handler does: it drops what it took, and prints a number.
-func (c *coder) taker(name string, n byte) *coder {
-	return c.mark(name, nil, throwableT).ops(87).say(n).ops(177)
+// takes: what a handler does: it drops what it took, and prints a number.
+func (c *coder) takes(name string, n byte) *coder {
+	return c.mark(name, nil, throwableT).ops(87).say(n)
 }
+
+// taker: and returns.
+func (c *coder) taker(name string, n byte) *coder { return c.takes(name, n).ops(177) }
 
 // errorClasses: E below Exception, F below E, G below Error.
 func errorClasses(t *testing.T) []*built {

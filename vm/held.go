@@ -20,8 +20,9 @@ func (h holder) Turn(turn func(heap.Ref) heap.Ref) {
 		turnValues(c.statics, turn)
 	}
 	for _, t := range h.threads {
+		t.self = turn(t.self)
 		for _, f := range t.frames {
-			f.lock = turn(f.lock)
+			f.held = turn(f.held)
 			turnValues(f.locals, turn)
 			turnValues(f.stack, turn)
 		}

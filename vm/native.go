@@ -17,6 +17,10 @@ func (s step) native(m *method) stop {
 		return goesOn
 	case stringName:
 		return s.ofText(m.Name)
+	case threadName:
+		return s.ofThread(m.Name)
+	case objectName:
+		return s.ofObject(m.Name)
 	}
 	return unsatisfiedLink
 }

@@ -40,8 +40,11 @@ type step struct {
 
 // goOn: by one step; false if the thread cannot.
 func (v *VM) goOn(t *thread) bool {
-	if len(t.frames) == 0 {
+	switch {
+	case t.isOver():
 		return false
+	case t.state == waiting:
+		return t.wake()
 	}
 	s := step{v, t, t.last()}
 	return s.end(s.run())

@@ -15,6 +15,7 @@ const (
 	arrayStore
 	classCast
 	illegalMonitor
+	illegalThreadState
 	negativeSize
 	nullPointer
 	textIndex
@@ -37,27 +38,28 @@ const lang = "java/lang/"
 
 // thrown: the names of what is thrown, without java/lang/.
 var thrown = [...]string{
-	arithmetic:       "ArithmeticException",
-	arrayIndex:       "ArrayIndexOutOfBoundsException",
-	arrayStore:       "ArrayStoreException",
-	classCast:        "ClassCastException",
-	illegalMonitor:   "IllegalMonitorStateException",
-	negativeSize:     "NegativeArraySizeException",
-	nullPointer:      "NullPointerException",
-	textIndex:        "StringIndexOutOfBoundsException",
-	abstractMethod:   "AbstractMethodError",
-	classCircularity: "ClassCircularityError",
-	classChange:      "IncompatibleClassChangeError",
-	illegalAccess:    "IllegalAccessError",
-	inInitializer:    "ExceptionInInitializerError",
-	instantiation:    "InstantiationError",
-	noClass:          "NoClassDefFoundError",
-	noField:          "NoSuchFieldError",
-	noMethod:         "NoSuchMethodError",
-	outOfMemory:      "OutOfMemoryError",
-	stackOverflow:    "StackOverflowError",
-	unsatisfiedLink:  "UnsatisfiedLinkError",
-	wrongClass:       "VerifyError",
+	arithmetic:         "ArithmeticException",
+	arrayIndex:         "ArrayIndexOutOfBoundsException",
+	arrayStore:         "ArrayStoreException",
+	classCast:          "ClassCastException",
+	illegalMonitor:     "IllegalMonitorStateException",
+	illegalThreadState: "IllegalThreadStateException",
+	negativeSize:       "NegativeArraySizeException",
+	nullPointer:        "NullPointerException",
+	textIndex:          "StringIndexOutOfBoundsException",
+	abstractMethod:     "AbstractMethodError",
+	classCircularity:   "ClassCircularityError",
+	classChange:        "IncompatibleClassChangeError",
+	illegalAccess:      "IllegalAccessError",
+	inInitializer:      "ExceptionInInitializerError",
+	instantiation:      "InstantiationError",
+	noClass:            "NoClassDefFoundError",
+	noField:            "NoSuchFieldError",
+	noMethod:           "NoSuchMethodError",
+	outOfMemory:        "OutOfMemoryError",
+	stackOverflow:      "StackOverflowError",
+	unsatisfiedLink:    "UnsatisfiedLinkError",
+	wrongClass:         "VerifyError",
 }
 
 // class: the name of the class of what is thrown.

@@ -38,7 +38,7 @@ func (s step) throw(thing heap.Ref) {
 			thing = s.fail(f.starts, thing)
 		}
 	}
-	s.state, s.why = died, s.kindOf(thing).name
+	s.finish(died, s.kindOf(thing).name)
 }
 
 // handlerOf: where code of a frame goes on that takes the thing. Where the code of one that initialises a class has not begun, since what is above is needed first, it takes nothing.
