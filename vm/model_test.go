@@ -16,6 +16,8 @@ type thingModel struct {
 	class string
 	refs  []*thingModel
 	words []uint64
+	lock  lockModel
+	runs  *threadModel // if it was started
 }
 
 // valueModel: what the verifier knows of it, and what it is: of is I, J, null, the name of a class, or nothing.
@@ -82,7 +84,7 @@ func (m *model) steps(n int) {
 
 func (m *model) make(class string, refs, words int) *thingModel {
 	m.most = max(m.most, m.live()+2+refs+words)
-	return &thingModel{class, make([]*thingModel, refs), make([]uint64, words)}
+	return &thingModel{class: class, refs: make([]*thingModel, refs), words: make([]uint64, words)}
 }
 
 func (m *model) push(l ...valueModel) { m.stack = append(m.stack, l...) }

@@ -294,3 +294,55 @@ func TestStartedByItsClass(t *testing.T) {
 	v.Run(0, 99)
 	script(t, "failed", v, "0:3/ExceptionInInitializerError threads=3 1*9=3 1:2 2*9=3 2:3/NoClassDefFoundError out=7,8")
 }
+
+// Nothing but Run makes a thread go on, whatever else is asked of the machine; and no machine hangs on another of the same classes.
+func TestRunAlone(t *testing.T) {
+	T := runner(t, "T", api.Public, func(c *coder) { c.str("x").ops(194).str("x").virtual(objectName, "wait", "()V").say(7) })
+	a := plain(t, 2, 0, func(c *coder) { c.made("T").start().made("T").start() })
+	one, other := started(t, usual, a, T), started(t, Options{100, 20, 4}, a, T)
+	ends(t, one)
+	script(t, "the other is as it was", other, "threads=1 0:0")
+	ends(t, other)
+	script(t, "one", one, "1*9=4 1:1 2*2=2")
+	script(t, "the other", other, "1*2=2 2*9=1 2*9=0 1:0 2:0")
+	d := newBuilt(t, "D", objectName, open).main(1, 0, func(c *coder) { c.str("x").ops(194).str("x").virtual(objectName, "notifyAll", "()V").ops(177) })
+	for range 3 {
+		other.Define(d.bytes())
+		other.Live()
+		other.Out()
+		other.Collect(true)
+		other.Collect(false)
+		other.Run(-1, 9)
+		other.Run(3, 9)
+		other.Run(1, 0)
+		other.Run(1, -9)
+		other.Thread(1)
+	}
+	other.Start("D")
+	script(t, "the other, then", other, "threads=4 1:0 2:0 3:0 2*9=0 3*9=2 3*9=0 1*9=2 1:1 3*9=4 3:2 1*9=0 1:1")
+	script(t, "one, then", one, "threads=3 1:1 1*9=0 2*9=2 2:1 out=")
+}
+
+// A thread goes in one piece as in pieces: over what it starts, locks that it takes and lets go, and up to where it cannot go on.
+func TestPieces(t *testing.T) {
+	l := exchanged(t, 2, 3)
+	for first := 1; first < 40; first++ {
+		whole, pieces := started(t, Options{100, 20, 5}, l...), started(t, Options{100, 60, 5}, l...)
+		for turn := 0; turn < 60; turn++ {
+			n := turn * first % 5
+			went := 0
+			for left := first; left > 0; left -= turn%3 + 1 {
+				went += pieces.Run(n, min(left, turn%3+1))
+			}
+			runs(t, fmt.Sprint("in one piece of ", first), whole, n, first, went)
+			if whole.Live() != pieces.Live() || whole.Threads() != pieces.Threads() {
+				t.Fatalf("pieces of %d, turn %d: %d and %d words", first, turn, whole.Live(), pieces.Live())
+			}
+			for n := range whole.Threads() {
+				s, why, _ := whole.Thread(n)
+				threadIs(t, "in pieces", pieces, n, s, why)
+			}
+		}
+		outIs(t, "in pieces", pieces, strings.Join(whole.Out(), " "))
+	}
+}

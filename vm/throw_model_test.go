@@ -20,10 +20,11 @@ type insModel struct {
 	frame int
 }
 
-// bodyModel: the code of a method.
+// bodyModel: the code of a method; none of a Native one.
 type bodyModel struct {
 	list     []insModel
 	handlers []handler
+	flags    uint16
 }
 
 // classModel: a class; its state by the words of the chapter.
@@ -37,6 +38,7 @@ type classModel struct {
 	state       string // "", by, done, failed
 	by          *threadModel
 	o           *thingModel // its static field
+	lock        lockModel
 }
 
 type frameModel struct {
@@ -45,6 +47,8 @@ type frameModel struct {
 	locals [2]*thingModel
 	stack  []valueModel
 	starts *classModel
+	lock   *lockModel
+	held   *thingModel
 }
 
 // threadModel: it runs by methods that call each other, and goes on where what it yields is asked for: true behind a step, false if it cannot.
@@ -53,6 +57,9 @@ type threadModel struct {
 	frames []*frameModel
 	state  int
 	why    string
+	self   *thingModel
+	waits  *lockModel
+	told   bool
 	yield  func(bool) bool
 	next   func() (bool, bool)
 	stop   func()
@@ -60,6 +67,8 @@ type threadModel struct {
 
 type worldModel struct {
 	limit, depth int
+	turnsLeft    int // that it is run by
+	most         int // threads that are started from outside, if there are not more already
 	classes      map[string]*classModel
 	texts        map[string]*thingModel
 	noRoom       *thingModel
@@ -70,7 +79,7 @@ type worldModel struct {
 }
 
 // firstSupers: what is above classes that are there at first.
-var firstSupers = strings.Fields("Throwable Object Exception Throwable Error Throwable RuntimeException Exception LinkageError Error VirtualMachineError Error ArithmeticException RuntimeException NullPointerException RuntimeException ClassCastException RuntimeException ArrayIndexOutOfBoundsException IndexOutOfBoundsException IndexOutOfBoundsException RuntimeException NoClassDefFoundError LinkageError VerifyError LinkageError ExceptionInInitializerError LinkageError OutOfMemoryError VirtualMachineError StackOverflowError VirtualMachineError String Object")
+var firstSupers = strings.Fields("Throwable Object Exception Throwable Error Throwable RuntimeException Exception LinkageError Error VirtualMachineError Error ArithmeticException RuntimeException NullPointerException RuntimeException ClassCastException RuntimeException ArrayIndexOutOfBoundsException IndexOutOfBoundsException IndexOutOfBoundsException RuntimeException NoClassDefFoundError LinkageError VerifyError LinkageError ExceptionInInitializerError LinkageError UnsatisfiedLinkError LinkageError IllegalMonitorStateException RuntimeException IllegalThreadStateException RuntimeException Thread Object OutOfMemoryError VirtualMachineError StackOverflowError VirtualMachineError String Object")
 
 // superOf: of a class; of an array it is java/lang/Object.
 func (w *worldModel) superOf(class string) string {
@@ -102,8 +111,11 @@ func (w *worldModel) live() int {
 		l = append(l, c.o)
 	}
 	for _, th := range w.threads {
+		if th.state < ended {
+			l = append(l, th.self)
+		}
 		for _, f := range th.frames {
-			l = append(l, f.locals[:]...)
+			l = append(append(l, f.held), f.locals[:]...)
 			for _, v := range f.stack {
 				l = append(l, v.thing)
 			}
@@ -157,10 +169,17 @@ func (th *threadModel) ticks(went bool) {
 
 func (th *threadModel) push(f *frameModel) { th.frames = append(th.frames, f) }
 
-func (th *threadModel) pop() { th.frames = th.frames[:len(th.frames)-1] }
+func (th *threadModel) pop() {
+	last := len(th.frames) - 1
+	if l := th.frames[last].lock; l != nil {
+		l.letGo(th)
+	}
+	th.frames = th.frames[:last]
+}
 
-// main: of a class, from its initialisation on.
-func (th *threadModel) main(c *classModel) iter.Seq[bool] {
+// main: of a class, from its initialisation on; or, of none, a frame.
+func (th *threadModel) main(c *classModel, f *frameModel) iter.Seq[bool] {
+	th.push(f)
 	return func(yield func(bool) bool) {
 		defer func() {
 			if x := recover(); x != nil && x != (quit{}) {
@@ -168,8 +187,6 @@ func (th *threadModel) main(c *classModel) iter.Seq[bool] {
 			}
 		}()
 		th.yield = yield
-		f := &frameModel{bodyModel: c.bodies["main"]}
-		th.push(f)
 		if x := th.run(f, th.initialise(c)); x != nil {
 			th.seen["died: "+x.class]++
 			th.state, th.why = died, x.class
@@ -272,8 +289,10 @@ func (th *threadModel) do(f *frameModel) (*thingModel, bool) {
 		}
 		th.ticks(true)
 		return nil, true
-	case "call", "init":
+	case "call", "init", "virtual":
 		return th.call(f, i), false
+	case "wait":
+		return th.wait(f), false
 	case "goto":
 		f.at = i.n - 1
 	default:
@@ -296,14 +315,20 @@ func (th *threadModel) call(f *frameModel, i insModel) *thingModel {
 		g.bodyModel = c.bodies["m"]
 	} else {
 		g.locals[0] = f.top(0).thing
-		if c != nil {
+		switch {
+		case g.locals[0] == nil:
+			return th.thrown("NullPointerException")
+		case i.op == "virtual":
+			c, g.bodyModel = th.selected(g.locals[0].class, "v")
+		case c != nil:
 			g.bodyModel = c.bodies["<init>"]
 		}
 	}
 	if len(th.frames) >= th.depth {
 		return th.thrown("StackOverflowError")
 	}
-	if i.op == "init" {
+	th.guard(g, c)
+	if i.op != "call" {
 		f.drop(1)
 	}
 	th.push(g)
@@ -348,7 +373,7 @@ func (th *threadModel) simple(f *frameModel, i insModel) *thingModel {
 		}
 		return f.top(0).thing
 	case "cast":
-		if x := f.top(0).thing; x != nil && !th.isBelow(x.class, throwable) {
+		if x := f.top(0).thing; x != nil && !th.isBelow(x.class, i.class) {
 			return th.thrown("ClassCastException")
 		}
 	case "element":
@@ -358,6 +383,9 @@ func (th *threadModel) simple(f *frameModel, i insModel) *thingModel {
 		return th.thrown("ArrayIndexOutOfBoundsException")
 	case "none":
 		return th.thrown("NoClassDefFoundError")
+	case "yield":
+	case "enter", "exit", "notify", "notifyAll", "start", "join":
+		return th.ofThing(f, i.op)
 	default:
 		return th.making(f, i)
 	}
@@ -415,7 +443,15 @@ func (i insModel) write(c *coder) {
 	case "print":
 		c.print("I")
 	case "cast":
-		c.with(192, c.class(throwable))
+		c.with(192, c.class(i.class))
+	case "wait", "notify", "notifyAll":
+		c.virtual(objectName, i.op, "()V")
+	case "start", "join":
+		c.virtual(threadName, i.op, "()V")
+	case "yield":
+		c.static(threadName, i.op, "()V")
+	case "virtual":
+		c.virtual(i.class, "v", "()V")
 	case "none":
 		c.with(187, c.class("None"))
 	case "get":
@@ -437,7 +473,7 @@ func (i insModel) write(c *coder) {
 	case "goto":
 		c.jump(167, fmt.Sprint(i.n))
 	default:
-		c.ops(map[string]byte{"null": 1, "pop": 87, "dup": 89, "divide": 108, "throw": 191, "element": 46, "return": 177}[i.op])
+		c.ops(map[string]byte{"null": 1, "pop": 87, "dup": 89, "divide": 108, "throw": 191, "element": 46, "enter": 194, "exit": 195, "return": 177}[i.op])
 	}
 }
 
@@ -474,7 +510,7 @@ func codeModel(s string) []insModel {
 var (
 	modelThings  = strings.Fields("K0 K0 K1 K1 K2 K2 K3 E0 E1 E2 W N")
 	modelThrown  = strings.Fields("E0 E1 E2 java/lang/Error java/lang/Exception java/lang/Throwable java/lang/ArithmeticException")
-	modelTakes   = strings.Fields("E0 E1 E2 java/lang/Throwable java/lang/Exception java/lang/RuntimeException java/lang/ArithmeticException java/lang/Error java/lang/LinkageError java/lang/NoClassDefFoundError java/lang/ExceptionInInitializerError java/lang/VirtualMachineError java/lang/StackOverflowError java/lang/OutOfMemoryError")
+	modelTakes   = strings.Fields("E0 E1 E2 java/lang/IllegalMonitorStateException java/lang/ClassCastException java/lang/Throwable java/lang/Exception java/lang/RuntimeException java/lang/ArithmeticException java/lang/Error java/lang/LinkageError java/lang/NoClassDefFoundError java/lang/ExceptionInInitializerError java/lang/VirtualMachineError java/lang/StackOverflowError java/lang/OutOfMemoryError")
 	modelStrings = strings.Fields("a bcd efghijklmnopqrstuvwxyz 0123456789")
 )
 
@@ -513,7 +549,7 @@ func throwing(r *rand.Rand) string {
 		class := pick(r, modelThrown)
 		return "new:" + class + " dup init:" + class + " throw"
 	case 2:
-		return "load:0 cast throw"
+		return "load:0 cast:" + throwable + " throw"
 	case 3:
 		return "load:1 null store:1 push:100 element pop"
 	case 4:
@@ -530,18 +566,24 @@ func taking(r *rand.Rand) string {
 
 // newBody: of which one in so many statements throws; the last of its handlers takes all, if it is to be so.
 func newBody(r *rand.Rand, calm int, all bool) *bodyModel {
-	b := &bodyModel{list: codeModel("null store:0 null store:1")}
+	return bodyOf(r, all, "null store:0 null store:1", "return", func() string {
+		if r.Intn(calm) == 0 {
+			return throwing(r)
+		}
+		return statement(r)
+	})
+}
+
+// bodyOf: by how it begins and ends, and what tells a statement.
+func bodyOf(r *rand.Rand, all bool, first, last string, tell func() string) *bodyModel {
+	b := &bodyModel{list: codeModel(first), flags: api.Static}
 	var begins, takes []int
 	for range 1 + r.Intn(7) {
 		begins = append(begins, len(b.list))
-		if r.Intn(calm) == 0 {
-			b.list = append(b.list, codeModel(throwing(r))...)
-		} else {
-			b.list = append(b.list, codeModel(statement(r))...)
-		}
+		b.list = append(b.list, codeModel(tell())...)
 	}
 	begins = append(begins, len(b.list))
-	b.list = append(b.list, insModel{op: "return"})
+	b.list = append(b.list, codeModel(last)...)
 	for range r.Intn(4) {
 		takes = append(takes, len(b.list))
 		b.list = append(b.list, codeModel(taking(r))...)
@@ -573,10 +615,7 @@ func newBody(r *rand.Rand, calm int, all bool) *bodyModel {
 
 func (w *worldModel) add(r *rand.Rand, name, super string) *classModel {
 	c := &classModel{name: name, super: super, own: r.Intn(3) + r.Intn(4)/3*r.Intn(40), bodies: map[string]*bodyModel{"main": newBody(r, 6, r.Intn(4) > 0), "m": newBody(r, 3, false)}}
-	if c.words = c.own; w.classes[super] != nil {
-		c.words += w.classes[super].words
-	}
-	c.bodies["<init>"] = &bodyModel{list: codeModel("load:0 init:" + super + " return")}
+	c.bodies["<init>"] = &bodyModel{flags: api.Public, list: codeModel("load:0 init:" + super + " return")}
 	if r.Intn(3) > 0 {
 		c.bodies["<clinit>"] = newBody(r, 10, r.Intn(3) == 0)
 	}
@@ -584,11 +623,22 @@ func (w *worldModel) add(r *rand.Rand, name, super string) *classModel {
 		c.texts = append(c.texts, pick(r, modelStrings))
 	}
 	w.classes[name] = c
+	w.measure(name)
 	return c
 }
 
+// measure: the words of things of classes, each behind the one above it.
+func (w *worldModel) measure(names ...string) {
+	for _, name := range names {
+		c := w.classes[name]
+		if c.words = c.own; w.classes[c.super] != nil {
+			c.words += w.classes[c.super].words
+		}
+	}
+}
+
 func newWorld(r *rand.Rand) *worldModel {
-	w := &worldModel{limit: 100 + r.Intn(80), depth: 1 + r.Intn(12), classes: map[string]*classModel{}, texts: map[string]*thingModel{}, noRoom: &thingModel{class: lang + "OutOfMemoryError"}}
+	w := &worldModel{turnsLeft: 300, most: 6, limit: 100 + r.Intn(80), depth: 1 + r.Intn(12), classes: map[string]*classModel{}, texts: map[string]*thingModel{}, noRoom: &thingModel{class: lang + "OutOfMemoryError"}}
 	w.add(r, "W", objectName).wrong = "VerifyError"
 	w.add(r, "N", objectName).wrong = "NoClassDefFoundError"
 	w.add(r, "K0", objectName)
@@ -617,10 +667,13 @@ func (c *classModel) built(t *testing.T) *built {
 	}
 	for name, body := range c.bodies {
 		switch {
-		case name == "<init>" && !c.isFace:
-			b.method(api.Public, name, "()V", 8, 1, body.write)
-		case name == "<clinit>" || name != "<init>" && !c.isFace:
+		case name == "<clinit>" || name == "main" && !c.isFace:
 			b.method(api.Static, name, "()V", 8, 2, body.write)
+		case c.isFace:
+		case body.flags&api.Native != 0:
+			b.bare(body.flags, name, "()V")
+		default:
+			b.method(body.flags, name, "()V", 8, 2, body.write)
 		}
 	}
 	if !c.isFace {
@@ -641,9 +694,7 @@ func (c *classModel) built(t *testing.T) *built {
 
 // start: a thread more; what is thrown at once is no step.
 func (w *worldModel) start(c *classModel) {
-	th := &threadModel{worldModel: w}
-	th.next, th.stop = iter.Pull(th.main(c))
-	w.threads = append(w.threads, th)
+	th := w.more(&threadModel{worldModel: w}, c, &frameModel{bodyModel: c.bodies["main"]})
 	switch c.state {
 	case "":
 		th.next()
@@ -679,47 +730,94 @@ func TestThrowModel(t *testing.T) {
 	seen := map[string]int{}
 	for seed := range int64(400) {
 		r := rand.New(rand.NewSource(seed))
-		w := newWorld(r)
-		w.seen = seen
-		var l []*built
-		for _, c := range w.classes {
-			l = append(l, c.built(t))
-		}
-		w.turns(t, fmt.Sprint("seed ", seed), r, machine(t, Options{w.limit, 20 + r.Intn(w.limit-19), w.depth}, l...))
-		for _, th := range w.threads {
-			th.stop()
-		}
+		newWorld(r).check(t, fmt.Sprint("seed ", seed), r, seen)
 	}
-	for _, what := range []string{"cannot go on", "no room for a value", "no room for what is thrown", "above: java/lang/StackOverflowError", "above: java/lang/ExceptionInInitializerError", "above: java/lang/NoClassDefFoundError", "instead: java/lang/ExceptionInInitializerError", "taken: E0", "taken: E1", "taken: E2", "taken: java/lang/OutOfMemoryError", "taken: java/lang/VerifyError", "died: java/lang/StackOverflowError", "died: java/lang/NoClassDefFoundError", "failed at Start: state 0", "failed at Start: state 3", "by another at Start"} {
+	cameUp(t, seen, "cannot go on", "no room for a value", "no room for what is thrown", "above: java/lang/StackOverflowError", "above: java/lang/ExceptionInInitializerError", "above: java/lang/NoClassDefFoundError", "instead: java/lang/ExceptionInInitializerError", "taken: E0", "taken: E1", "taken: E2", "taken: java/lang/OutOfMemoryError", "taken: java/lang/VerifyError", "died: java/lang/StackOverflowError", "died: java/lang/NoClassDefFoundError", "failed at Start: state 0", "failed at Start: state 3", "by another at Start")
+}
+
+func cameUp(t *testing.T, seen map[string]int, l ...string) {
+	t.Helper()
+	for _, what := range l {
 		if seen[what] == 0 {
 			t.Errorf("never came up: %s; what did: %v", what, seen)
 		}
 	}
 }
 
-func (w *worldModel) turns(t *testing.T, what string, r *rand.Rand, v *VM) {
-	n := 0
-	for turn := range 300 {
+// callModel: of a machine: Start of a class; or Define of what is late; or Run of a thread by steps, and how many it went.
+type callModel struct {
+	class               string
+	late                bool
+	thread, steps, went int
+}
+
+// check: the machine goes as the model does; and so does another with more or less room for the young, in which nothing is collected but by itself, and which goes in pieces that are as great as may be.
+func (w *worldModel) check(t *testing.T, what string, r *rand.Rand, seen map[string]int) {
+	w.seen = seen
+	var l []*built
+	for _, c := range w.classes {
+		l = append(l, c.built(t))
+	}
+	young := func() int { return 20 + r.Intn(w.limit-19) }
+	calls := w.turns(t, what, r, machine(t, Options{w.limit, young(), w.depth}, l...))
+	v := machine(t, Options{w.limit, young(), w.depth}, l...)
+	for k, c := range calls {
+		at := fmt.Sprint(what, ", in one piece, call ", k)
+		switch {
+		case c.class != "":
+			v.Start(c.class)
+		case c.late:
+			defineLate(t, v)
+		default:
+			runs(t, at, v, c.thread, c.steps, c.went)
+		}
+	}
+	w.same(t, what+", in pieces", v)
+	for _, th := range w.threads {
+		th.stop()
+	}
+}
+
+func defineLate(t *testing.T, v *VM) { v.Define(newBuilt(t, "Late", lang+"Error", open).bytes()) }
+
+// turns: of the threads; the calls that were made.
+func (w *worldModel) turns(t *testing.T, what string, r *rand.Rand, v *VM) []callModel {
+	n, went := 0, true
+	var calls []callModel
+	for turn := range w.turnsLeft {
 		at := fmt.Sprint(what, ", turn ", turn)
 		switch k := r.Intn(40); {
-		case turn == 0, k == 0 && len(w.threads) < 6:
+		case turn == 0, k == 0 && len(w.threads) < w.most:
 			name := fmt.Sprint("K", r.Intn(3))
 			w.start(w.classes[name])
 			if got, e := v.Start(name); got != len(w.threads)-1 || e != api.OK {
 				t.Fatalf("%s: Start = %d, %d", at, got, e)
 			}
+			calls = append(calls, callModel{class: name})
 		case k == 1:
-			v.Define(newBuilt(t, "Late", lang+"Error", open).bytes())
+			defineLate(t, v)
 			w.classes["N"].wrong = ""
+			calls = append(calls, callModel{late: true})
 		case k == 2:
 			v.Collect(false)
-		case k < 8:
+		case k < 8, !went && k < 36:
 			n = r.Intn(len(w.threads))
+			for tries := 0; tries < 4 && w.threads[n].state >= ended; tries++ {
+				n = r.Intn(len(w.threads))
+			}
 		}
-		went, _ := w.threads[n].next()
-		if got := v.Run(n, 1); got != map[bool]int{true: 1}[went] {
+		went, _ = w.threads[n].next()
+		steps := map[bool]int{true: 1}[went]
+		if got := v.Run(n, 1); got != steps {
 			t.Fatalf("%s: thread %d went %d steps, want %v", at, n, got, went)
 		}
 		w.same(t, at, v)
+		if last := len(calls) - 1; calls[last].steps > 0 && calls[last].thread == n {
+			calls[last].steps++
+			calls[last].went += steps
+		} else {
+			calls = append(calls, callModel{thread: n, steps: 1, went: steps})
+		}
 	}
+	return calls
 }

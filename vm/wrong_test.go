@@ -65,6 +65,7 @@ func TestTopOnStack(t *testing.T) {
 	others := []*built{
 		newBuilt(t, "X", objectName, open).maker().field(0, "a", anyType).field(0, "n", "J").says(api.Private, "p", "()V", 1).says(api.Public, "v", "()V", 2),
 		newBuilt(t, "Y", objectName, open).maker(),
+		newBuilt(t, "Z", objectName, open).maker().says(api.Public, "run", "()V", 3).says(api.Public|api.Synchronized, "s", "()V", 4),
 	}
 	// As known to the verifier: below the Top stands a thing that is taken for one of another class.
 	for _, c := range []struct {
@@ -83,18 +84,26 @@ func TestTopOnStack(t *testing.T) {
 		{"[LX;", func(c *coder) { c.made("X") }, func(c *coder) { c.ops(3, 1, 83) }},
 		{"[LX;", func(c *coder) { c.ops(5, 188, 10) }, func(c *coder) { c.ops(89, 3, 95, 3, 50, 83) }},
 		{"[[I", func(c *coder) { c.made("Y") }, func(c *coder) { c.ops(190).print("I") }},
+		{threadName, func(c *coder) { c.made("Y") }, func(c *coder) { c.start() }},
+		{threadName, func(c *coder) { c.made("Z") }, func(c *coder) { c.ops(89).start().ops(89).join() }},
+		{threadName, func(c *coder) { c.array(3) }, func(c *coder) { c.start() }},
+		{threadName, func(c *coder) { c.str("text") }, func(c *coder) { c.ops(89).join().start() }},
+		{"Z", func(c *coder) { c.array(3) }, func(c *coder) { c.virtual("Z", "s", "()V") }},
+		{"Z", func(c *coder) { c.made("X") }, func(c *coder) { c.ops(89, 194).virtual("Z", "s", "()V") }},
+		{"Z", func(c *coder) { c.made("Y") }, func(c *coder) { c.ops(89, 194).virtual(objectName, "wait", "()V") }},
 		{"java/lang/Throwable", func(c *coder) { c.made("Y") }, func(c *coder) { c.ops(89).jump(198, "on").ops(191).mark("on", nil, obj("java/lang/Throwable")).ops(87) }},
 	} {
-		v := started(t, usual, plain(t, 10, 0, func(x *coder) {
+		a := plain(t, 10, 0, func(x *coder) {
 			x.made("Y").ops(87, 1).with(192, x.class(c.as))
 			c.push(x)
 			x.ops(9).jump(167, "on!").mark("on!", nil, obj(c.as), anyT, top).ops(95, 87, 87)
 			c.use(x)
-		}), others[0], others[1])
-		for k := 0; v.Run(0, 1) == 1; k++ {
+		})
+		v := started(t, usual, append([]*built{a}, others...)...)
+		for k := 0; v.Run(0, 1)+v.Run(1, 1) > 0; k++ {
 			v.Collect(k%2 == 0)
 		}
-		if s, _, _ := v.Thread(0); s != 2 && s != 3 {
+		if s, _, _ := v.Thread(0); s != 2 && s != 3 && (s != 1 || c.as != "Z") {
 			t.Errorf("as %s: state %d", c.as, s)
 		}
 	}
@@ -103,6 +112,9 @@ func TestTopOnStack(t *testing.T) {
 // spoil: a handler of a method is another, or a byte of its code.
 func spoil(r *rand.Rand, c *api.Class) {
 	code := &c.Methods[r.Intn(len(c.Methods))].Code
+	if code.Bytes == "" {
+		return // of a Native one
+	}
 	if n := len(code.Handlers); n > 0 && r.Intn(4) > 0 {
 		code.Handlers = slices.Clone(code.Handlers)
 		h, other := &code.Handlers[r.Intn(n)], code.Handlers[r.Intn(n)]
@@ -126,12 +138,15 @@ func spoil(r *rand.Rand, c *api.Class) {
 	code.Bytes = string(s)
 }
 
-// So do classes with handlers, with <clinit> and of what is thrown, by several threads.
+// So do classes with handlers, with <clinit> and of what is thrown, and of threads and locks, by several threads.
 func TestChangedClasses(t *testing.T) {
 	r := rand.New(rand.NewSource(79))
 	ran := 0
-	for range 60 {
+	for k := range 120 {
 		w := newWorld(r)
+		if k%2 == 1 {
+			w = newThreadWorld(r)
+		}
 		files := map[string]string{}
 		for name, c := range w.classes {
 			files[name] = c.built(t).bytes()
@@ -155,11 +170,11 @@ func TestChangedClasses(t *testing.T) {
 			v.Start(changed.name)
 			ran += v.Threads() - 1
 			for range 30 {
-				v.Run(r.Intn(2), r.Intn(30))
+				v.Run(r.Intn(max(2, v.Threads())), r.Intn(30))
 				v.Collect(r.Intn(2) == 0)
 			}
 			for n := range v.Threads() {
-				if s, why, e := v.Thread(n); s != 0 && s != 2 && s != 3 || (s == 3) != (why != "") || e != api.OK {
+				if s, why, e := v.Thread(n); s < 0 || s > 3 || s == 1 && k%2 == 0 || (s == 3) != (why != "") || e != api.OK {
 					t.Fatalf("the thread: %d, %q, %d", s, why, e)
 				}
 			}
