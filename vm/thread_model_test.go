@@ -208,7 +208,7 @@ func newThreadWorld(r *rand.Rand) *worldModel {
 	w := newWorld(r)
 	w.limit = 100 + r.Intn(20) + r.Intn(2)*r.Intn(200)
 	w.depth = []int{2 + r.Intn(6), 8 + r.Intn(8), 8, 12, 20}[r.Intn(5)]
-	w.turnsLeft, w.most = 500, 12
+	w.rounds, w.most = 500, 12
 	w.classes["K0"].super = pick(r, []string{threadName, threadName, threadName, objectName})
 	for k, super := range []string{w.classes["K0"].super, "K0", pick(r, []string{"K0", "K1", objectName})} {
 		name := fmt.Sprint("K", k)

@@ -67,7 +67,7 @@ type threadModel struct {
 
 type worldModel struct {
 	limit, depth int
-	turnsLeft    int // that it is run by
+	rounds       int // that it is run by
 	most         int // threads that are started from outside, if there are not more already
 	classes      map[string]*classModel
 	texts        map[string]*thingModel
@@ -638,7 +638,7 @@ func (w *worldModel) measure(names ...string) {
 }
 
 func newWorld(r *rand.Rand) *worldModel {
-	w := &worldModel{turnsLeft: 300, most: 6, limit: 100 + r.Intn(80), depth: 1 + r.Intn(12), classes: map[string]*classModel{}, texts: map[string]*thingModel{}, noRoom: &thingModel{class: lang + "OutOfMemoryError"}}
+	w := &worldModel{rounds: 300, most: 6, limit: 100 + r.Intn(80), depth: 1 + r.Intn(12), classes: map[string]*classModel{}, texts: map[string]*thingModel{}, noRoom: &thingModel{class: lang + "OutOfMemoryError"}}
 	w.add(r, "W", objectName).wrong = "VerifyError"
 	w.add(r, "N", objectName).wrong = "NoClassDefFoundError"
 	w.add(r, "K0", objectName)
@@ -784,7 +784,7 @@ func defineLate(t *testing.T, v *VM) { v.Define(newBuilt(t, "Late", lang+"Error"
 func (w *worldModel) turns(t *testing.T, what string, r *rand.Rand, v *VM) []callModel {
 	n, went := 0, true
 	var calls []callModel
-	for turn := range w.turnsLeft {
+	for turn := range w.rounds {
 		at := fmt.Sprint(what, ", turn ", turn)
 		switch k := r.Intn(40); {
 		case turn == 0, k == 0 && len(w.threads) < w.most:
